@@ -1,6 +1,8 @@
 package mute_test
 
 import (
+	"fmt"
+	"math"
 	"math/rand"
 	"slices"
 	"strings"
@@ -66,38 +68,62 @@ func TestCallsEndAndNonePanics(t *testing.T) {
 			t.Fatalf("P1: Check(%.120q) = %d, %d", text, errno, at)
 		}
 		seen[errno]++
-		checkNil(t, text)
+		checkShape(t, text, errno)
+		checkRun(t, text, errno)
+		if code, errno := mute.Compile(text); errno != api.OK && code != nil {
+			t.Errorf("P1: Compile(%.120q) = %v, %d", text, code, errno)
+		}
 	}
 	if i := slices.Index(seen[:api.ErrArg], 0); i >= 0 {
 		t.Errorf("no text here comes to error %d, so nothing was tried of it", i)
 	}
 }
 
-// checkNil: with an error nothing else is answered.
-func checkNil(t *testing.T, text string) {
+// checkShape: Check's error, and with an error nothing else is answered.
+func checkShape(t *testing.T, text string, want api.Errno) {
 	t.Helper()
-	if shape, errno := mute.Shape(text); errno != api.OK && shape != nil {
-		t.Errorf("P1: Shape(%.120q) = %v, %d", text, shape, errno)
+	shape, errno := mute.Shape(text)
+	if errno != want || errno != api.OK && shape != nil || len(shape) > api.MaxNames*api.MaxArray {
+		t.Errorf("P1: Shape(%.120q) = %v, %d, want %d", text, shape, errno, want)
 	}
-	if code, errno := mute.Compile(text); errno != api.OK && code != nil {
-		t.Errorf("P1: Compile(%.120q) = %v, %d", text, code, errno)
-	}
-	for _, memory := range [][]int{nil, {}, {1}, make([]int, 300)} {
-		if words, errno := mute.Run(text, memory); errno != api.OK && words != nil {
-			t.Errorf("P1: Run(%.120q, %v) = %v, %d", text, memory, words, errno)
+}
+
+func checkRun(t *testing.T, text string, want api.Errno) {
+	t.Helper()
+	shape, _ := mute.Shape(text)
+	for _, size := range []int{0, 1, len(shape), 300} {
+		for _, memory := range [][]int{nil, make([]int, size), slices.Repeat([]int{math.MinInt, -1, math.MaxInt}, 100)[:size]} {
+			expected := want
+			if want == api.OK && len(memory) != len(shape) {
+				expected = api.ErrArg
+			}
+			words, errno := mute.Run(text, memory)
+			if errno != expected || errno != api.OK && words != nil || errno == api.OK && len(words) != len(memory) {
+				t.Errorf("P1: Run(%.120q) with %d words = %v, %d, want %d", text, len(memory), words, errno, expected)
+			}
 		}
 	}
 }
 
-type answer struct {
-	errno api.Errno
-	at    int
+// someWords are as many words as a program's memory has.
+func someWords(text string) []int {
+	shape, _ := mute.Shape(text)
+	words := make([]int, len(shape))
+	for i := range words {
+		words[i] = i*i - 3
+	}
+	return words
 }
 
-func checkEach(texts []string) []answer {
-	answers := make([]answer, len(texts))
+// answersTo writes down what each call answers to each text.
+func answersTo(texts []string) []string {
+	answers := make([]string, len(texts))
 	for i, text := range texts {
-		answers[i].errno, answers[i].at = mute.Check(text)
+		errno, at := mute.Check(text)
+		shape, shapeErrno := mute.Shape(text)
+		words, wordsErrno := mute.Run(text, someWords(text))
+		_, argErrno := mute.Run(text, make([]int, 300))
+		answers[i] = fmt.Sprint(errno, at, shape, shapeErrno, words, wordsErrno, argErrno)
 	}
 	return answers
 }
@@ -105,10 +131,10 @@ func checkEach(texts []string) []answer {
 // No call leaves anything behind that a later one, or one beside it, could see.
 func TestSameAnswerEachTime(t *testing.T) {
 	texts := oddTexts()
-	first := checkEach(texts)
+	first := answersTo(texts)
 	backwards := slices.Clone(texts)
 	slices.Reverse(backwards)
-	again := checkEach(backwards)
+	again := answersTo(backwards)
 	slices.Reverse(again)
 	if !slices.Equal(first, again) {
 		t.Error("P2: the same texts in another order are answered otherwise")
@@ -116,7 +142,7 @@ func TestSameAnswerEachTime(t *testing.T) {
 	var workers sync.WaitGroup
 	for range 4 {
 		workers.Go(func() {
-			if !slices.Equal(first, checkEach(texts)) {
+			if !slices.Equal(first, answersTo(texts)) {
 				t.Error("P2: the same texts are answered otherwise beside others")
 			}
 		})
@@ -124,17 +150,58 @@ func TestSameAnswerEachTime(t *testing.T) {
 	workers.Wait()
 }
 
+// fill writes into a whole slice and its spare room, as its owner may.
+func fill[T any](words []T, value T) {
+	room := words[:cap(words)]
+	for i := range room {
+		room[i] = value
+	}
+}
+
+// Run leaves alone what is handed in and what stands ahead of it and behind it, whether it takes it or not, and does not give it back.
 func TestMemoryIsLeftAlone(t *testing.T) {
 	for _, text := range goodTexts {
 		for size := range 15 {
 			room := slices.Repeat([]int{7}, 20)
-			words, _ := mute.Run(text, room[:size])
-			for i := range words[:cap(words)] {
-				words[:cap(words)][i] = 8
-			}
+			words, _ := mute.Run(text, room[2:2+size])
+			fill(words, 8)
 			if !slices.Equal(room, slices.Repeat([]int{7}, 20)) {
 				t.Fatalf("P2: Run(%.120q) with %d words wrote into what was handed in, or gave it back", text, size)
 			}
+		}
+	}
+}
+
+// What Run answered stays so, when what was handed in is another thing afterwards.
+func TestMemoryIsNotKept(t *testing.T) {
+	for _, text := range goodTexts {
+		memory := someWords(text)
+		words, _ := mute.Run(text, memory)
+		before := slices.Clone(words)
+		fill(memory, 99)
+		if again, _ := mute.Run(text, someWords(text)); !slices.Equal(words, before) || !slices.Equal(again, before) {
+			t.Errorf("P2: Run(%.120q) = %v, and then %v and %v", text, before, words, again)
+		}
+	}
+}
+
+// Who has an answer may write into it and its spare room: no other answer, earlier or later, is another one by it.
+func TestAnswersAreTheCallers(t *testing.T) {
+	for _, text := range goodTexts {
+		firstWords, _ := mute.Run(text, someWords(text))
+		words, _ := mute.Run(text, someWords(text))
+		firstShape, _ := mute.Shape(text)
+		shape, _ := mute.Shape(text)
+		wordsBefore, shapeBefore := slices.Clone(words), slices.Clone(shape)
+		fill(firstWords, 99)
+		for _, value := range []bool{true, false} {
+			fill(firstShape, value)
+			if laterShape, _ := mute.Shape(text); !slices.Equal(shape, shapeBefore) || !slices.Equal(laterShape, shapeBefore) {
+				t.Errorf("P2: Shape(%.120q) = %v, and then %v and %v", text, shapeBefore, shape, laterShape)
+			}
+		}
+		if laterWords, _ := mute.Run(text, someWords(text)); !slices.Equal(words, wordsBefore) || !slices.Equal(laterWords, wordsBefore) {
+			t.Errorf("P2: Run(%.120q) = %v, and then %v and %v", text, wordsBefore, words, laterWords)
 		}
 	}
 }

@@ -27,6 +27,7 @@ type reader struct {
 	text    string
 	token   token       // the one that is looked at
 	names   []tree.Name // that can be seen
+	words   int         // of memory that they have
 	depth   int         // brackets that are open
 	loops   int         // that are open
 	errno   api.Errno
@@ -82,10 +83,11 @@ func (r *reader) program() tree.Program {
 	for r.token.text == opening && beginsDecl(r.peek().text) {
 		name := inBrackets(r, r.decl)
 		r.names = append(r.names, name)
+		r.words += name.Size
 	}
 	dos := r.dos()
 	r.expect(ending)
-	return tree.Program{Names: r.names, Dos: dos}
+	return tree.Program{Names: r.names, Words: r.words, Dos: dos}
 }
 
 func (r *reader) decl(at int) tree.Name {
@@ -96,14 +98,14 @@ func (r *reader) decl(at int) tree.Name {
 		return r.array()
 	}
 	secret := r.secrecy()
-	return tree.Name{Text: r.newName(), Kind: tree.Variable, Secret: secret, Size: 1}
+	return tree.Name{Text: r.newName(), Kind: tree.Variable, Secret: secret, Size: 1, Place: r.words}
 }
 
 func (r *reader) array() tree.Name {
 	r.step()
 	secret := r.secrecy()
 	text := r.newName()
-	return tree.Name{Text: text, Kind: tree.Array, Secret: secret, Size: r.size()}
+	return tree.Name{Text: text, Kind: tree.Array, Secret: secret, Size: r.size(), Place: r.words}
 }
 
 func (r *reader) secrecy() bool {
@@ -192,7 +194,7 @@ func (r *reader) loop(at int) tree.Do {
 		r.failHere(api.ErrDeep)
 	}
 	r.step()
-	counter := tree.Name{Text: r.newName(), Kind: tree.Counter}
+	counter := tree.Name{Text: r.newName(), Kind: tree.Counter, Place: r.words + r.loops}
 	rounds := r.expr()
 	return tree.For{At: at, Counter: counter, Rounds: rounds, Body: r.body(counter)}
 }

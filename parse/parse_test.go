@@ -23,13 +23,15 @@ func TestTokens(t *testing.T) {
 }
 
 func TestTree(t *testing.T) {
-	const text = "(secret k)(array public a 4)(if (< k -10) ((set k (choose 1 k 002))) ())(for i (get a 3) (put a i i))"
+	const text = "(secret k)(array public a 4)(if (< k -10) ((set k (choose 1 k 002))) ())(for i (get a 3) (put a i i) (for j 1))"
 	k := tree.Name{Text: "k", Kind: tree.Variable, Secret: true, Size: 1}
-	a := tree.Name{Text: "a", Kind: tree.Array, Size: 4}
-	i := tree.Name{Text: "i", Kind: tree.Counter}
+	a := tree.Name{Text: "a", Kind: tree.Array, Size: 4, Place: 1}
+	i := tree.Name{Text: "i", Kind: tree.Counter, Place: 5}
+	j := tree.Name{Text: "j", Kind: tree.Counter, Place: 6}
 	place := func(of string) int { return strings.Index(text, of) }
 	want := tree.Program{
 		Names: []tree.Name{k, a},
+		Words: 5,
 		Dos: []tree.Do{
 			tree.If{
 				At:       place("(if"),
@@ -41,10 +43,13 @@ func TestTree(t *testing.T) {
 				}},
 			},
 			tree.For{
-				At:      place("(for"),
+				At:      place("(for i"),
 				Counter: i,
 				Rounds:  tree.Get{At: place("(get"), Array: a, Number: tree.Number{Value: 3}},
-				Body:    []tree.Do{tree.Put{At: place("(put"), Array: a, Number: tree.Use{Name: i}, Value: tree.Use{Name: i}}},
+				Body: []tree.Do{
+					tree.Put{At: place("(put"), Array: a, Number: tree.Use{Name: i}, Value: tree.Use{Name: i}},
+					tree.For{At: place("(for j"), Counter: j, Rounds: tree.Number{Value: 1}},
+				},
 			},
 		},
 	}

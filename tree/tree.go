@@ -16,6 +16,7 @@ type Name struct {
 	Kind   Kind
 	Secret bool
 	Size   int // words of the program's memory; a counter has none there
+	Place  int // of its first word there; counters lie behind that memory, each by the number of loops around its own
 }
 
 // CanBeSet tells whether a `set` may name it.
@@ -30,6 +31,7 @@ func (n Name) HasWords() bool { return n.Kind == Array }
 // Program is a whole program.
 type Program struct {
 	Names []Name // those declared, in their order
+	Words int    // of its memory
 	Dos   []Do
 }
 
