@@ -70,9 +70,7 @@ func TestCallsEndAndNonePanics(t *testing.T) {
 		seen[errno]++
 		checkShape(t, text, errno)
 		checkRun(t, text, errno)
-		if code, errno := mute.Compile(text); errno != api.OK && code != nil {
-			t.Errorf("P1: Compile(%.120q) = %v, %d", text, code, errno)
-		}
+		checkCompile(t, text, errno)
 	}
 	if i := slices.Index(seen[:api.ErrArg], 0); i >= 0 {
 		t.Errorf("no text here comes to error %d, so nothing was tried of it", i)
@@ -105,6 +103,15 @@ func checkRun(t *testing.T, text string, want api.Errno) {
 	}
 }
 
+// checkCompile: where there is no error there is code, but for programs that ask secrets, of which there is none yet.
+func checkCompile(t *testing.T, text string, want api.Errno) {
+	t.Helper()
+	code, errno := mute.Compile(text)
+	if errno != want || errno != api.OK && code != nil || errno == api.OK && (len(code) == 0) != asksSecret(text) || !sound(code) {
+		t.Errorf("P1: Compile(%.120q) = %v, %d, want %d", text, code, errno, want)
+	}
+}
+
 // someWords are as many words as a program's memory has.
 func someWords(text string) []int {
 	shape, _ := mute.Shape(text)
@@ -123,7 +130,8 @@ func answersTo(texts []string) []string {
 		shape, shapeErrno := mute.Shape(text)
 		words, wordsErrno := mute.Run(text, someWords(text))
 		_, argErrno := mute.Run(text, make([]int, 300))
-		answers[i] = fmt.Sprint(errno, at, shape, shapeErrno, words, wordsErrno, argErrno)
+		code, codeErrno := mute.Compile(text)
+		answers[i] = fmt.Sprint(errno, at, shape, shapeErrno, words, wordsErrno, argErrno, code, codeErrno)
 	}
 	return answers
 }
@@ -202,6 +210,18 @@ func TestAnswersAreTheCallers(t *testing.T) {
 		}
 		if laterWords, _ := mute.Run(text, someWords(text)); !slices.Equal(words, wordsBefore) || !slices.Equal(laterWords, wordsBefore) {
 			t.Errorf("P2: Run(%.120q) = %v, and then %v and %v", text, wordsBefore, words, laterWords)
+		}
+	}
+}
+
+func TestCodeIsTheCallers(t *testing.T) {
+	for _, text := range goodTexts {
+		first, _ := mute.Compile(text)
+		code, _ := mute.Compile(text)
+		before := slices.Clone(code)
+		fill(first, api.Instr{Op: 99, A: 99, B: 99, C: 99, D: 99})
+		if later, _ := mute.Compile(text); !slices.Equal(code, before) || !slices.Equal(later, before) {
+			t.Errorf("P2: Compile(%.120q) = %v, and then %v and %v", text, before, code, later)
 		}
 	}
 }

@@ -7,6 +7,7 @@ import (
 	"mute/parse"
 	"mute/run"
 	"mute/tree"
+	"mute/write"
 )
 
 // read gives a program that may be, or what Check answers.
@@ -55,4 +56,10 @@ func Run(text string, memory []int) ([]int, api.Errno) {
 }
 
 // Compile makes instructions (P6).
-func Compile(text string) ([]api.Instr, api.Errno) { return nil, api.OK }
+func Compile(text string) ([]api.Instr, api.Errno) {
+	program, errno, _ := read(text)
+	if errno != api.OK {
+		return nil, errno
+	}
+	return write.Program(program), api.OK
+}

@@ -1,0 +1,127 @@
+package write
+
+import (
+	"slices"
+	"strings"
+	"testing"
+
+	"mute/api"
+	"mute/parse"
+	"mute/tree"
+)
+
+func read(t *testing.T, text string) tree.Program {
+	t.Helper()
+	program, errno, at := parse.Program(text)
+	if errno != api.OK {
+		t.Fatalf("%q: %d, %d", text, errno, at)
+	}
+	return program
+}
+
+func TestTableHasEveryOp(t *testing.T) {
+	table, want := instructions(), map[byte]int{'+': api.Add, '-': api.Sub, '*': api.Mul, '/': api.Div, '&': api.And, '^': api.Xor, '<': api.Less, '=': api.Equal}
+	for op := range table {
+		instr, known := want[byte(op)]
+		if known != (table[op] != nil) {
+			t.Errorf("the table has %q: %v", byte(op), !known)
+		}
+		if !known {
+			continue
+		}
+		w := &writer{}
+		table[op](w, 5, 6, 7)
+		if !slices.Equal(w.code, []api.Instr{{Op: instr, A: 5, B: 6, C: 7}}) {
+			t.Errorf("%q becomes %v", byte(op), w.code)
+		}
+	}
+}
+
+func TestPoolHandsOutTheLeast(t *testing.T) {
+	p := newPool(3, 9)
+	for want := 3; want < 9; want++ {
+		if got := p.take(); got != want {
+			t.Errorf("took %d, want %d", got, want)
+		}
+	}
+	for _, number := range []int{7, 3, 8, 5, 4, 6} {
+		p.give(number)
+	}
+	p.give(p.take())
+	for _, want := range []int{3, 4} {
+		if got := p.take(); got != want {
+			t.Errorf("took %d, want %d", got, want)
+		}
+	}
+	p.give(4)
+	for _, want := range []int{4, 5, 6, 7, 8} {
+		if got := p.take(); got != want {
+			t.Errorf("took %d, want %d", got, want)
+		}
+	}
+	if p.Len() != 0 {
+		t.Errorf("%d are left", p.Len())
+	}
+}
+
+// chooses is one `choose` in another, so that two words wait at each.
+func chooses(brackets int) string {
+	return "(public n)(set n " + strings.Repeat("(choose n 2 ", brackets) + "n" + strings.Repeat(")", brackets) + ")"
+}
+
+func TestAllIsGivenBack(t *testing.T) {
+	for _, text := range []string{
+		"", "(public n)(set n (+ n 1))", "(array public a 3)(put a (get a 1) (get a 2))", chooses(9),
+		"(public n)(for i n (for j 2 (if n ((set n j)) ((set n i)))))", "(public n)(if (choose n 1 2) ((for i n)) ((for i 3 (set n i))))",
+	} {
+		program := read(t, text)
+		w := newWriter(program)
+		w.dos(program.Dos)
+		registers, words := newPool(0, api.Registers), newPool(program.Words+api.MaxLoops, api.Memory)
+		slices.Sort(*w.registers)
+		slices.Sort(*w.words)
+		if !slices.Equal(*w.registers, *registers) || !slices.Equal(*w.words, *words) {
+			t.Errorf("%q leaves %v and %v", text, *w.registers, *w.words)
+		}
+	}
+}
+
+func stores(code []api.Instr) int {
+	count := 0
+	for _, instr := range code {
+		if instr.Op == api.Store {
+			count++
+		}
+	}
+	return count
+}
+
+// Words wait in memory when registers are few, and not before.
+func TestWordsThatWait(t *testing.T) {
+	for brackets, want := range map[int]int{0: 1, 1: 1, 2: 1, 3: 2, 4: 4, 9: 14} {
+		if got := stores(Program(read(t, chooses(brackets)))); got != want {
+			t.Errorf("%d chooses in one another store %d words, want %d", brackets, got, want)
+		}
+	}
+}
+
+func TestCodeOfOneSet(t *testing.T) {
+	want := []api.Instr{
+		{Op: api.Const, A: 0, D: 1}, {Op: api.Load, A: 0, B: 0}, {Op: api.Const, A: 1, D: -7}, {Op: api.Sub, A: 1, B: 0, C: 1},
+		{Op: api.Const, A: 0, D: 0}, {Op: api.Store, A: 0, B: 1}, {Op: api.Halt},
+	}
+	if got := Program(read(t, "(secret k)(public n)(set k (- n -7))")); !slices.Equal(got, want) {
+		t.Errorf("code = %v, want %v", got, want)
+	}
+}
+
+// Of a program that asks a secret there is no code yet, wherever it asks.
+func TestNoCodeThatAsksSecrets(t *testing.T) {
+	for _, dos := range []string{
+		"(if k () ())", "(if n ((if k () ())) ())", "(if n () ((for i 2 (if (+ n (get a 1)) () ()))))", "(if k () ())(if n () ())",
+	} {
+		if code := Program(read(t, "(secret k)(public n)(array secret a 2)"+dos)); code != nil {
+			t.Errorf("%q: %v", dos, code)
+		}
+	}
+}
