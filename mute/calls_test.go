@@ -103,11 +103,11 @@ func checkRun(t *testing.T, text string, want api.Errno) {
 	}
 }
 
-// checkCompile: where there is no error there is code, but for programs that ask secrets, of which there is none yet.
+// checkCompile: where there is no error there is code.
 func checkCompile(t *testing.T, text string, want api.Errno) {
 	t.Helper()
 	code, errno := mute.Compile(text)
-	if errno != want || errno != api.OK && code != nil || errno == api.OK && (len(code) == 0) != asksSecret(text) || !sound(code) {
+	if errno != want || errno != api.OK && code != nil || errno == api.OK && len(code) == 0 || !sound(code) {
 		t.Errorf("P1: Compile(%.120q) = %v, %d, want %d", text, code, errno, want)
 	}
 }

@@ -2,13 +2,16 @@ package mute_test
 
 import (
 	"math/rand"
+	"slices"
 	"strconv"
 	"strings"
 
 	"mute/api"
+	"mute/parse"
+	"mute/tree"
 )
 
-// inventor makes texts of programs that are right, without ifs that ask secrets.
+// inventor makes texts of programs that are right.
 type inventor struct {
 	random *rand.Rand
 	public []string // what can be read: variables and counters
@@ -16,12 +19,14 @@ type inventor struct {
 	arrays map[bool][]string // by whether they are secret
 	set    []string          // the public ones that can be set
 	loops  int
-	room   int // for so many brackets more
+	hidden bool // what is made now is done in secret
+	leaves int  // of ten Exprs, so that some programs have long ones, and some many Do's
+	room   int  // for so many brackets more
 }
 
 func randomProgram(random *rand.Rand) string {
 	for {
-		v := &inventor{random: random, arrays: map[bool][]string{}, room: 10 + random.Intn(60)}
+		v := &inventor{random: random, arrays: map[bool][]string{}, leaves: 2 + random.Intn(7), room: 10 + random.Intn(60)}
 		text := v.decls() + v.dos(0)
 		if len(text) <= api.MaxText {
 			return text
@@ -72,18 +77,32 @@ func (v *inventor) dos(depth int) string {
 // do makes a Do in whose bracket there are depth brackets open.
 func (v *inventor) do(depth int) string {
 	v.room--
-	secret := v.often(5)
-	switch kind := v.random.Intn(6); {
-	case kind == 0 && depth+2 < api.MaxNest && v.room > 0:
-		return "(if " + v.expr(depth, false) + "(" + v.dos(depth+1) + ")(" + v.dos(depth+1) + "))"
-	case kind <= 2 && depth+1 < api.MaxNest && v.room > 0 && v.loops < api.MaxLoops:
+	secret := v.hidden || v.often(5)
+	switch kind := v.random.Intn(8); {
+	case kind <= 2 && depth+2 < api.MaxNest && v.room > 0:
+		return v.ask(depth, v.often(7))
+	case kind <= 4 && depth+1 < api.MaxNest && v.room > 0 && v.loops < api.MaxLoops:
 		return v.loop(depth)
-	case kind <= 3:
+	case kind <= 5:
 		return "(put " + v.one(v.arrays[secret]) + " " + v.expr(depth, false) + " " + v.expr(depth, secret) + ")"
 	case secret:
 		return "(set " + v.one(v.secret) + " " + v.expr(depth, true) + ")"
 	}
 	return "(set " + v.one(v.set) + " " + v.expr(depth, false) + ")"
+}
+
+// ask makes an `if`, of which now and then a side is empty.
+func (v *inventor) ask(depth int, secret bool) string {
+	question, outside := v.expr(depth, secret), v.hidden
+	v.hidden = v.hidden || secret
+	sides := []string{"", ""}
+	for i := range sides {
+		if v.often(8) {
+			sides[i] = v.dos(depth + 1)
+		}
+	}
+	v.hidden = outside
+	return "(if " + question + "(" + sides[0] + ")(" + sides[1] + "))"
 }
 
 func (v *inventor) loop(depth int) string {
@@ -98,7 +117,7 @@ func (v *inventor) loop(depth int) string {
 }
 
 func (v *inventor) expr(depth int, secret bool) string {
-	if depth == api.MaxNest || v.room <= 0 || v.often(2) {
+	if depth == api.MaxNest || v.room <= 0 || v.often(v.leaves) {
 		return v.leaf(secret)
 	}
 	v.room--
@@ -122,4 +141,22 @@ func (v *inventor) leaf(secret bool) string {
 		return v.one(v.secret)
 	}
 	return v.one(v.public)
+}
+
+// asksSecret tells whether an `if` of a program asks a secret.
+func asksSecret(text string) bool {
+	program, _, _ := parse.Program(text)
+	return anyAsksSecret(program.Dos)
+}
+
+func anyAsksSecret(dos []tree.Do) bool {
+	return slices.ContainsFunc(dos, func(do tree.Do) bool {
+		switch do := do.(type) {
+		case tree.If:
+			return do.Question.Secret() || anyAsksSecret(do.Yes) || anyAsksSecret(do.No)
+		case tree.For:
+			return anyAsksSecret(do.Body)
+		}
+		return false
+	})
 }

@@ -6,14 +6,11 @@ import (
 	"mute/tree"
 )
 
-// Program gives the instructions of a program that has been checked. For one with an `if` that asks a secret it gives none yet: jumps would tell the answer.
+// Program gives the instructions of a program that has been checked, for what it may not do with its secrets, too.
 func Program(program tree.Program) []api.Instr {
 	w := newWriter(program)
 	w.dos(program.Dos)
 	w.add(api.Instr{Op: api.Halt})
-	if w.asksSecret {
-		return nil
-	}
 	return w.code
 }
 
@@ -23,7 +20,7 @@ type writer struct {
 	registers    *pool // that are free
 	words        *pool // of the machine's memory, that are free
 	instructions [256]instruction
-	asksSecret   bool
+	conditions   []int // words of memory, the innermost last: see secret.go
 }
 
 func newWriter(program tree.Program) *writer {
@@ -56,7 +53,9 @@ func (w *writer) do(do tree.Do) {
 func (w *writer) setVariable(do tree.Set) {
 	value := w.expr(do.Value)
 	defer w.registers.give(value)
-	w.store(do.Name.Place, value)
+	place := w.number(do.Name.Place)
+	defer w.registers.give(place)
+	w.change(place, value)
 }
 
 func (w *writer) put(do tree.Put) {
@@ -65,11 +64,14 @@ func (w *writer) put(do tree.Put) {
 	defer w.registers.give(place)
 	value := w.fetch(kept)
 	defer w.registers.give(value)
-	w.storeTo(place, value)
+	w.change(place, value)
 }
 
 func (w *writer) branch(do tree.If) {
-	w.asksSecret = w.asksSecret || do.Question.Secret()
+	if do.Question.Secret() {
+		w.doBoth(do)
+		return
+	}
 	toNo := w.jumpUnless(do.Question)
 	w.dos(do.Yes)
 	toEnd := w.jump()

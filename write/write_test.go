@@ -73,6 +73,7 @@ func TestAllIsGivenBack(t *testing.T) {
 	for _, text := range []string{
 		"", "(public n)(set n (+ n 1))", "(array public a 3)(put a (get a 1) (get a 2))", chooses(9),
 		"(public n)(for i n (for j 2 (if n ((set n j)) ((set n i)))))", "(public n)(if (choose n 1 2) ((for i n)) ((for i 3 (set n i))))",
+		"(secret k)(if k () ())", "(secret k)(if k ((if (choose k 1 k) ((set k 1)) ((for i 2 (set k i))))) ((set k 2)))(set k 3)", "(secret k)(array secret a 2)(for i 2 (if k ((put a i k)) ((if i ((set k 1)) ()))))",
 	} {
 		program := read(t, text)
 		w := newWriter(program)
@@ -82,6 +83,9 @@ func TestAllIsGivenBack(t *testing.T) {
 		slices.Sort(*w.words)
 		if !slices.Equal(*w.registers, *registers) || !slices.Equal(*w.words, *words) {
 			t.Errorf("%q leaves %v and %v", text, *w.registers, *w.words)
+		}
+		if w.inSecret() {
+			t.Errorf("%q leaves the conditions %v", text, w.conditions)
 		}
 	}
 }
@@ -115,13 +119,34 @@ func TestCodeOfOneSet(t *testing.T) {
 	}
 }
 
-// Of a program that asks a secret there is no code yet, wherever it asks.
-func TestNoCodeThatAsksSecrets(t *testing.T) {
-	for _, dos := range []string{
-		"(if k () ())", "(if n ((if k () ())) ())", "(if n () ((for i 2 (if (+ n (get a 1)) () ()))))", "(if k () ())(if n () ())",
+// An `if` that asks a secret jumps nowhere, and both of its sides write what they may change.
+func TestCodeOfOneSecretIf(t *testing.T) {
+	want := []api.Instr{
+		{Op: api.Const, A: 0, D: 0}, {Op: api.Load, A: 0, B: 0}, {Op: api.Const, A: 1, D: 1}, {Op: api.Const, A: 2, D: 0},
+		{Op: api.Select, A: 3, B: 1, C: 0, D: 2}, {Op: api.Const, A: 4, D: 3}, {Op: api.Store, A: 4, B: 3},
+		{Op: api.Select, A: 3, B: 2, C: 0, D: 1}, {Op: api.Const, A: 4, D: 4}, {Op: api.Store, A: 4, B: 3},
+		{Op: api.Const, A: 0, D: 7}, {Op: api.Const, A: 1, D: 0}, {Op: api.Const, A: 2, D: 3}, {Op: api.Load, A: 2, B: 2}, {Op: api.Load, A: 3, B: 1},
+		{Op: api.Select, A: 0, B: 0, C: 2, D: 3}, {Op: api.Store, A: 1, B: 0}, {Op: api.Halt},
+	}
+	if got := Program(read(t, "(secret k)(if k ((set k 7)) ())")); !slices.Equal(got, want) {
+		t.Errorf("code = %v, want %v", got, want)
+	}
+}
+
+// Only public questions and loops jump.
+func TestSecretIfsDoNotJump(t *testing.T) {
+	for dos, want := range map[string]int{
+		"(if k () ())": 0, "(if k ((set k 1)) ((put a n k)))": 0, "(if (get a n) ((if k ((set k 1)) ())) ((if (choose n k 1) () ((set k 2)))))": 0,
+		"(if n () ())": 2, "(if k ((if n ((set k 1)) ((set k 2)))) ())": 2, "(if k () ((for i n (set k 1))))": 2, "(for i n (if k ((set k 1)) ((if n () ()))))": 4,
 	} {
-		if code := Program(read(t, "(secret k)(public n)(array secret a 2)"+dos)); code != nil {
-			t.Errorf("%q: %v", dos, code)
+		got := 0
+		for _, instr := range Program(read(t, "(secret k)(public n)(array secret a 2)"+dos)) {
+			if instr.Op == api.Jump || instr.Op == api.JumpZero {
+				got++
+			}
+		}
+		if got != want {
+			t.Errorf("%q jumps %d times, want %d", dos, got, want)
 		}
 	}
 }
