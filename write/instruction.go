@@ -80,7 +80,7 @@ func (w *writer) storeTo(place, value int) {
 	w.add(api.Instr{Op: api.Store, A: place, B: value})
 }
 
-// jump tells where it stands: where it goes to is not known yet.
+// jump tells where it stands: where it goes to is not known yet. Its number is laid in a variable ahead of its use: the language leaves open whether code[jump()] means the code ahead of the call or behind it.
 func (w *writer) jump() int {
 	w.add(api.Instr{Op: api.Jump})
 	return len(w.code) - 1
@@ -94,4 +94,4 @@ func (w *writer) jumpIfZero(register int) int {
 // land makes a jump go to what is written next.
 func (w *writer) land(jump int) { w.code[jump].D = len(w.code) }
 
-func (w *writer) jumpBack(to int) { w.code[w.jump()].D = to }
+func (w *writer) jumpBack(to int) { w.add(api.Instr{Op: api.Jump, D: to}) }

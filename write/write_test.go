@@ -1,6 +1,10 @@
 package write
 
 import (
+	"go/ast"
+	"go/parser"
+	"go/token"
+	"path/filepath"
 	"slices"
 	"strings"
 	"testing"
@@ -116,6 +120,58 @@ func TestCodeOfOneSet(t *testing.T) {
 	}
 	if got := Program(read(t, "(secret k)(public n)(set k (- n -7))")); !slices.Equal(got, want) {
 		t.Errorf("code = %v, want %v", got, want)
+	}
+}
+
+// The jump back goes to where the counter is asked, the other one behind it.
+func TestCodeOfOneLoop(t *testing.T) {
+	want := []api.Instr{
+		{Op: api.Const, A: 0, D: 2}, {Op: api.Const, A: 1, D: api.MaxRounds}, {Op: api.Less, A: 2, B: 0, C: 1}, {Op: api.Select, A: 0, B: 0, C: 2, D: 1},
+		{Op: api.Const, A: 3, D: 3}, {Op: api.Store, A: 3, B: 0}, {Op: api.Const, A: 0, D: 0}, {Op: api.Const, A: 1, D: 1}, {Op: api.Store, A: 1, B: 0},
+		{Op: api.Const, A: 0, D: 1}, {Op: api.Load, A: 0, B: 0}, {Op: api.Const, A: 1, D: 3}, {Op: api.Load, A: 1, B: 1}, {Op: api.Less, A: 0, B: 0, C: 1}, {Op: api.JumpZero, B: 0, D: 26},
+		{Op: api.Const, A: 0, D: 1}, {Op: api.Load, A: 0, B: 0}, {Op: api.Const, A: 1, D: 0}, {Op: api.Store, A: 1, B: 0},
+		{Op: api.Const, A: 0, D: 1}, {Op: api.Load, A: 0, B: 0}, {Op: api.Const, A: 1, D: 1}, {Op: api.Add, A: 0, B: 0, C: 1}, {Op: api.Const, A: 2, D: 1}, {Op: api.Store, A: 2, B: 0},
+		{Op: api.Jump, D: 9}, {Op: api.Halt},
+	}
+	if got := Program(read(t, "(public n)(for i 2 (set n i))")); !slices.Equal(got, want) {
+		t.Errorf("code = %v, want %v", got, want)
+	}
+}
+
+// hasCall tells whether a call stands in a piece of source, but of len, which changes nothing.
+func hasCall(piece ast.Node) bool {
+	found := false
+	ast.Inspect(piece, func(node ast.Node) bool {
+		if call, ok := node.(*ast.CallExpr); ok {
+			name, plain := call.Fun.(*ast.Ident)
+			found = found || !plain || name.Name != "len"
+		}
+		return true
+	})
+	return found
+}
+
+// What is indexed may be read ahead of a call in its index or behind it, as the compiler likes, and the writer's calls write code: so none stands there. That shows in no answer, only in the source.
+func TestNoCallInAnIndex(t *testing.T) {
+	names, err := filepath.Glob("*.go")
+	if err != nil || len(names) < 2 {
+		t.Fatalf("sources: %v, %v", names, err)
+	}
+	files := token.NewFileSet()
+	for _, name := range names {
+		if strings.HasSuffix(name, "_test.go") {
+			continue
+		}
+		file, err := parser.ParseFile(files, name, nil, 0)
+		if err != nil {
+			t.Fatal(err)
+		}
+		ast.Inspect(file, func(node ast.Node) bool {
+			if index, ok := node.(*ast.IndexExpr); ok && hasCall(index.Index) {
+				t.Errorf("%v: a call in an index", files.Position(index.Pos()))
+			}
+			return true
+		})
 	}
 }
 
